@@ -1,0 +1,84 @@
+package tests
+
+import (
+	"math/rand"
+	"testing"
+
+	"loop.example/ensemble/impl"
+)
+
+// anyExpr is something of the type of expressions, seldom one that is ok.
+func anyExpr(r *rand.Rand, deep int) impl.Expr {
+	texts := []string{"", "x", "y", "fun", "abcde", "\\xff", "v0", "1", "(", "x y"}
+	numbers := []int{0, 0, 1, 2, 6, 7, -1, 999999, 1000000, 1<<63 - 1, -1 << 63}
+	e := impl.Expr{Kind: r.Intn(25) - 1, Num: numbers[r.Intn(len(numbers))]}
+	if r.Intn(2) == 0 {
+		e.Name = texts[r.Intn(len(texts))]
+	}
+	if r.Intn(3) == 0 {
+		e.Tail = texts[r.Intn(len(texts))]
+	}
+	for i := r.Intn(4); i > 0 && deep > 0; i-- {
+		e.Kids = append(e.Kids, anyExpr(r, deep-1))
+	}
+	return e
+}
+
+// anyText is some bytes, of which many stand in texts of expressions.
+func anyText(r *rand.Rand) string {
+	bytes := []byte("abxyfunletrecinif  ()()->::,+-*/<=|0123456789")
+	var s []byte
+	for i := r.Intn(30); i > 0; i-- {
+		s = append(s, bytes[r.Intn(len(bytes))])
+	}
+	if r.Intn(4) == 0 {
+		s = append(s, byte(r.Intn(256)))
+	}
+	return string(s)
+}
+
+// Every function of chapters 1 to 3 answers, whatever it is given, and at what is not ok with its fixed answer.
+func TestAnswersAtAnything(t *testing.T) {
+	r := rand.New(rand.NewSource(41))
+	list := append(wrongExprs(), oneOfEach()...)
+	for i := 0; i < 3000; i++ {
+		list = append(list, anyExpr(r, r.Intn(4)))
+	}
+	for _, e := range list {
+		x, name := list[r.Intn(len(list))], anyText(r)
+		ok := impl.ExprOk(e)
+		free, tidy := impl.NameFree(e), impl.NameTidy(e)
+		into, put := impl.NameInto(e, "x", x)
+		if !ok && (impl.ExprPut(e) != "" || len(free) > 0 || !isNothing(tidy) || put || impl.NameLike(e, e)) {
+			t.Fatal("something is told of what is not ok")
+		}
+		if !put && !isNothing(into) {
+			t.Fatal("something stands beside false")
+		}
+		if out, put := impl.NameInto(x, name, e); put && !impl.NameOk(name) || !put && !isNothing(out) {
+			t.Fatal("something is put in for what is no name")
+		}
+		if got, ok := impl.ExprGet(name); !ok && !isNothing(got) {
+			t.Fatal("something stands beside false")
+		}
+		if impl.NameLike(e, x) != impl.NameLike(x, e) {
+			t.Fatal("to be alike is so the other way round")
+		}
+	}
+}
+
+// No function keeps anything: asked again, behind others, it answers the same.
+func TestAnswersAgain(t *testing.T) {
+	list := okExprs(42, 300)
+	var texts []string
+	var tidy []impl.Expr
+	for _, e := range list {
+		texts = append(texts, impl.ExprPut(e))
+		tidy = append(tidy, impl.NameTidy(e))
+	}
+	for i := len(list) - 1; i >= 0; i-- {
+		if impl.ExprPut(list[i]) != texts[i] || !sameExpr(impl.NameTidy(list[i]), tidy[i]) {
+			t.Fatalf("%s: another answer", texts[i])
+		}
+	}
+}
