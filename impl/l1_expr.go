@@ -270,6 +270,11 @@ func levelOfOp(op int) int {
 	return 1
 }
 
+// isTruth says whether an op makes a truth of numbers.
+func isTruth(op int) bool {
+	return op == OpLess || op == OpSame
+}
+
 // exprText is the text of an expression that is ok, however long.
 func exprText(e Expr) string {
 	p := pen{}
@@ -307,12 +312,14 @@ func (f numForm) write(p *pen) { p.say(strconv.Itoa(f.Num)) }
 
 func (f boolForm) rule() rule { return rule{most: 1, level: 6} }
 
-func (f boolForm) write(p *pen) {
-	if f.Num == 1 {
-		p.say("true")
-	} else {
-		p.say("false")
+func (f boolForm) write(p *pen) { p.say(truthText(f.Num == 1)) }
+
+// truthText is the word of a truth.
+func truthText(truth bool) string {
+	if truth {
+		return "true"
 	}
+	return "false"
 }
 
 func (f varForm) rule() rule { return rule{names: 1, level: 6} }

@@ -10,7 +10,7 @@ func ExprGet(s string) (Expr, bool) {
 	if len(s) > TextMax {
 		return Expr{}, false
 	}
-	e, ok := readAll(s)
+	e, ok := readAll(s, (*reader).whole)
 	if !ok || ExprPut(e) == "" {
 		return Expr{}, false
 	}
@@ -22,8 +22,8 @@ type misread struct {
 	at int
 }
 
-// readAll reads a text as one expression, be it ok or not; here alone what is wrong is caught.
-func readAll(s string) (e Expr, ok bool) {
+// readAll reads a text by a rule that must take all of its words; here alone what is wrong is caught.
+func readAll[T any](s string, rule func(r *reader) T) (out T, ok bool) {
 	defer func() {
 		caught := recover()
 		if caught == nil {
@@ -32,17 +32,18 @@ func readAll(s string) (e Expr, ok bool) {
 		if _, wrong := caught.(misread); !wrong {
 			panic(caught)
 		}
-		e, ok = Expr{}, false
+		var nothing T
+		out, ok = nothing, false
 	}()
 	r := reader{}
 	for word := range wordsOf(s) {
 		r.words = append(r.words, word)
 	}
-	e = r.whole()
+	out = rule(&r)
 	if r.at < len(r.words) {
 		r.refuse()
 	}
-	return e, true
+	return out, true
 }
 
 // wordsOf gives the words and signs of a text, from the left. A byte that is part of none is given alone: no rule takes it.

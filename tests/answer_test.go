@@ -37,7 +37,7 @@ func anyText(r *rand.Rand) string {
 	return string(s)
 }
 
-// Every function of chapters 1 to 3 answers, whatever it is given, and at what is not ok with its fixed answer.
+// Every function of chapters 1 to 5 answers, whatever it is given, and at what is not ok with its fixed answer.
 func TestAnswersAtAnything(t *testing.T) {
 	r := rand.New(rand.NewSource(41))
 	list := append(wrongExprs(), oneOfEach()...)
@@ -64,6 +64,13 @@ func TestAnswersAtAnything(t *testing.T) {
 		if impl.NameLike(e, x) != impl.NameLike(x, e) {
 			t.Fatal("to be alike is so the other way round")
 		}
+		kind, told, typed := impl.TypeOf(e)
+		if !typed && kind+told != "" || typed && !ok {
+			t.Fatal("a type of what has none")
+		}
+		if value, want := impl.EvalOf(e); (want == impl.WantStuck) == typed || value != "" && want != impl.WantDone {
+			t.Fatal("a value of what has no type")
+		}
 	}
 }
 
@@ -79,6 +86,23 @@ func TestAnswersAgain(t *testing.T) {
 	for i := len(list) - 1; i >= 0; i-- {
 		if impl.ExprPut(list[i]) != texts[i] || !sameExpr(impl.NameTidy(list[i]), tidy[i]) {
 			t.Fatalf("%s: another answer", texts[i])
+		}
+	}
+}
+
+// Who asks for a type or a value writes nothing into an expression, nor behind its lists.
+func TestTypesAndValuesWriteNothing(t *testing.T) {
+	list := append(typedExprs(43, 300, true), okExprs(44, 300)...)
+	for _, e := range list {
+		spare := withSpare(e)
+		kind, told, _ := impl.TypeOf(spare)
+		value, want := impl.EvalOf(spare)
+		if !sameExpr(spare, e) || !spareKept(spare) {
+			t.Fatalf("%s was written into", impl.ExprPut(e))
+		}
+		k, m, _ := impl.TypeOf(e)
+		if v, w := impl.EvalOf(e); k != kind || m != told || v != value || w != want {
+			t.Fatalf("%s: another answer", impl.ExprPut(e))
 		}
 	}
 }
