@@ -37,7 +37,7 @@ func anyText(r *rand.Rand) string {
 	return string(s)
 }
 
-// Every function of chapters 1 to 5 answers, whatever it is given, and at what is not ok with its fixed answer.
+// Every function of chapters 1 to 6 that takes an expression or a text answers, whatever it is given, and at what is not ok with its fixed answer.
 func TestAnswersAtAnything(t *testing.T) {
 	r := rand.New(rand.NewSource(41))
 	list := append(wrongExprs(), oneOfEach()...)
@@ -71,6 +71,12 @@ func TestAnswersAtAnything(t *testing.T) {
 		if value, want := impl.EvalOf(e); (want == impl.WantStuck) == typed || value != "" && want != impl.WantDone {
 			t.Fatal("a value of what has no type")
 		}
+		if ops, made := impl.CodeOf(e); made != typed || !made && len(ops) > 0 {
+			t.Fatal("code of what has no type")
+		}
+		if ops, ok := impl.CodeGet(name); ok || len(ops) > 0 {
+			t.Fatal("code of what is none")
+		}
 	}
 }
 
@@ -103,6 +109,19 @@ func TestTypesAndValuesWriteNothing(t *testing.T) {
 		k, m, _ := impl.TypeOf(e)
 		if v, w := impl.EvalOf(e); k != kind || m != told || v != value || w != want {
 			t.Fatalf("%s: another answer", impl.ExprPut(e))
+		}
+	}
+}
+
+// The bounds of the chapters that are built are those of the document's table.
+func TestBounds(t *testing.T) {
+	bounds := map[string][2]int{
+		"NameMax": {impl.NameMax, 4}, "NodeMax": {impl.NodeMax, 60}, "DeepMax": {impl.DeepMax, 14}, "TextMax": {impl.TextMax, 400}, "TypeMax": {impl.TypeMax, 64},
+		"CallMax": {impl.CallMax, 300}, "CodeMax": {impl.CodeMax, 200}, "HeapMax": {impl.HeapMax, 120}, "ProcMax": {impl.ProcMax, 6},
+	}
+	for name, pair := range bounds {
+		if pair[0] != pair[1] {
+			t.Errorf("%s is %d, not %d", name, pair[0], pair[1])
 		}
 	}
 }

@@ -130,9 +130,9 @@ func (w *worth) told(around int) string {
 	case "bool":
 		return []string{"false", "true"}[w.num]
 	case "pid":
-		return "pid 0"
-	case "fun":
-		return "fun"
+		return "pid " + strconv.Itoa(int(w.num))
+	case "fun", "env":
+		return w.sign
 	case "pair":
 		return "(" + w.parts[0].told(around+1) + ", " + w.parts[1].told(around+1) + ")"
 	}

@@ -1,6 +1,7 @@
 package tests
 
 import (
+	"slices"
 	"testing"
 
 	"loop.example/ensemble/impl"
@@ -22,5 +23,36 @@ func TestReadmeExample(t *testing.T) {
 	}
 	if kind, ok := impl.TypeMeet("a -> b list", "int -> c"); !ok || kind != "int -> a list" || !impl.TypeMore("a -> b", kind) {
 		t.Error(kind, ok)
+	}
+	readmeCode(t)
+	readmeCells(t)
+}
+
+func readmeCode(t *testing.T) {
+	ops, ok := impl.CodeOf(mustRead(t, "let x = 1 in fun y -> x + y"))
+	text := impl.CodePut(ops)
+	if !ok || len(ops) != 9 || text != "num 1\nbind\nfun 5\ndrop 1\ngive\nvar 1\nvar 0\nop 1\ngive\n" {
+		t.Error(text)
+	}
+	if again, ok := impl.CodeGet(text); !ok || !slices.Equal(again, ops) {
+		t.Error(again)
+	}
+}
+
+func readmeCells(t *testing.T) {
+	one, first := impl.Word{Tag: impl.WordInt, Num: 1}, impl.Word{Tag: impl.WordRef, Num: 1}
+	cells := []impl.Cell{{Kind: impl.CellPair}, {Kind: impl.CellCons, A: one}}
+	if text := impl.HeapText(cells, first); text != "1 :: nil" {
+		t.Error(text)
+	}
+	if places := impl.HeapReach(cells, []impl.Word{first}); !slices.Equal(places, []int{1}) {
+		t.Error(places)
+	}
+	clean, words := impl.HeapClean(cells, []impl.Word{first})
+	if len(clean) != 1 || clean[0] != cells[1] || words[0].Num != 0 {
+		t.Error(clean, words)
+	}
+	if both, word, ok := impl.HeapInto(cells, first, clean); !ok || len(both) != 2 || word.Num != 1 {
+		t.Error(both, word, ok)
 	}
 }
