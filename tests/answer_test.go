@@ -37,7 +37,7 @@ func anyText(r *rand.Rand) string {
 	return string(s)
 }
 
-// Every function of chapters 1 to 6 that takes an expression or a text answers, whatever it is given, and at what is not ok with its fixed answer.
+// Every function of chapters 1 to 6, 8 and 9 that takes an expression or a text answers, whatever it is given, and at what is not ok with its fixed answer.
 func TestAnswersAtAnything(t *testing.T) {
 	r := rand.New(rand.NewSource(41))
 	list := append(wrongExprs(), oneOfEach()...)
@@ -77,6 +77,27 @@ func TestAnswersAtAnything(t *testing.T) {
 		if ops, ok := impl.CodeGet(name); ok || len(ops) > 0 {
 			t.Fatal("code of what is none")
 		}
+		runsAtAnything(t, r, e, typed)
+	}
+}
+
+// runsAtAnything asks for machines and processes of an expression, with events that are numbers of all sizes.
+func runsAtAnything(t *testing.T, r *rand.Rand, e impl.Expr, typed bool) {
+	numbers := []int{0, 1, 1, 2, 2, 3, 5, 6, -1, 1 << 40, 1<<63 - 1, -1 << 63}
+	var events []impl.Event
+	for range r.Intn(20) {
+		events = append(events, impl.Event{Kind: numbers[r.Intn(len(numbers))], Proc: numbers[r.Intn(len(numbers))]})
+	}
+	for _, always := range []bool{false, true} {
+		if s, want, most := impl.MachOf(e, always); (want == impl.WantStuck) == typed || s != "" && want != impl.WantDone || !typed && most != 0 {
+			t.Fatal("a machine of what has no type")
+		}
+		if a := impl.RunMach(e, events, always); (len(a.Ends) > 0) != typed || len(a.Ends) != len(a.Boxes) || !typed && len(a.Outs) > 0 {
+			t.Fatal("processes of what has no type")
+		}
+	}
+	if a := impl.RunMean(e, events); (len(a.Ends) > 0) != typed || len(a.Ends) != len(a.Boxes) || !typed && len(a.Outs) > 0 {
+		t.Fatal("processes of what has no type")
 	}
 }
 
@@ -113,11 +134,14 @@ func TestTypesAndValuesWriteNothing(t *testing.T) {
 	}
 }
 
-// The bounds of the chapters that are built are those of the document's table.
+// The bounds of the chapters that are built are those of the document's table, and codes are the numbers that chapters 8 and 9 name.
 func TestBounds(t *testing.T) {
 	bounds := map[string][2]int{
 		"NameMax": {impl.NameMax, 4}, "NodeMax": {impl.NodeMax, 60}, "DeepMax": {impl.DeepMax, 14}, "TextMax": {impl.TextMax, 400}, "TypeMax": {impl.TypeMax, 64},
 		"CallMax": {impl.CallMax, 300}, "CodeMax": {impl.CodeMax, 200}, "HeapMax": {impl.HeapMax, 120}, "ProcMax": {impl.ProcMax, 6},
+		"FrameMax": {impl.FrameMax, 60}, "BoxMax": {impl.BoxMax, 6}, "RunMax": {impl.RunMax, 40}, "EventMax": {impl.EventMax, 120},
+		"WantFull": {impl.WantFull, 104}, "EventRun": {impl.EventRun, 1}, "EventKill": {impl.EventKill, 2}, "EndNot": {impl.EndNot, 0}, "EndDone": {impl.EndDone, 1},
+		"EndDiv": {impl.EndDiv, 2}, "EndStuck": {impl.EndStuck, 3}, "EndFull": {impl.EndFull, 4}, "EndLink": {impl.EndLink, 5}, "EndKill": {impl.EndKill, 6},
 	}
 	for name, pair := range bounds {
 		if pair[0] != pair[1] {

@@ -309,7 +309,7 @@ func (d *doing) from(at int, known []*worth) *worth {
 
 func (d *doing) function(op impl.Op, known []*worth) *worth {
 	f := &worth{sign: "fun"}
-	f.call = func(x *worth) *worth {
+	f.call = func(_ *thought, x *worth) *worth {
 		if op.Kind == impl.CodeRec {
 			return d.from(op.Num, slices.Concat(known, []*worth{f, x}))
 		}

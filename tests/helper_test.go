@@ -36,6 +36,16 @@ func mustRead(t *testing.T, s string) impl.Expr {
 	return e
 }
 
+// mustType reads a text that is an expression with a type.
+func mustType(t *testing.T, s string) impl.Expr {
+	t.Helper()
+	e := mustRead(t, s)
+	if _, _, ok := impl.TypeOf(e); !ok {
+		t.Fatalf("no type: %q", s)
+	}
+	return e
+}
+
 // sameExpr says whether two expressions are the same; the empty list is the nil list.
 func sameExpr(x impl.Expr, y impl.Expr) bool {
 	if x.Kind != y.Kind || x.Name != y.Name || x.Tail != y.Tail || x.Num != y.Num || len(x.Kids) != len(y.Kids) {

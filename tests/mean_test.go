@@ -14,14 +14,18 @@ type worth struct {
 	sign  string
 	num   int32
 	parts []*worth
-	call  func(x *worth) *worth
+	call  func(d *thought, x *worth) *worth
 }
 
 // stops is what thinking panics with.
 type stops struct{ want int }
 
-// thought does what words mean by going into parts.
-type thought struct{ calls int }
+// thought does what words mean by going into parts; alone, if there is nobody whom it asks for what it wants. A function is thought by who calls it.
+type thought struct {
+	self  int
+	calls int
+	asks  func(kind int, parts []*worth) *worth
+}
 
 func (d *thought) of(e impl.Expr, known map[string]*worth) *worth {
 	with := func(more ...any) map[string]*worth {
@@ -35,10 +39,10 @@ func (d *thought) of(e impl.Expr, known map[string]*worth) *worth {
 	case impl.ExprVar:
 		return known[e.Name]
 	case impl.ExprFun:
-		return &worth{sign: "fun", call: func(x *worth) *worth { return d.of(e.Kids[0], with(e.Name, x)) }}
+		return &worth{sign: "fun", call: func(d *thought, x *worth) *worth { return d.of(e.Kids[0], with(e.Name, x)) }}
 	case impl.ExprRec:
 		f := &worth{sign: "fun"}
-		f.call = func(x *worth) *worth { return d.of(e.Kids[0], with(e.Name, f, e.Tail, x)) }
+		f.call = func(d *thought, x *worth) *worth { return d.of(e.Kids[0], with(e.Name, f, e.Tail, x)) }
 		return d.of(e.Kids[1], with(e.Name, f))
 	case impl.ExprLet:
 		return d.of(e.Kids[1], with(e.Name, d.of(e.Kids[0], known)))
@@ -68,7 +72,7 @@ func (d *thought) does(e impl.Expr, parts []*worth) *worth {
 	case impl.ExprBool:
 		return &worth{sign: "bool", num: int32(e.Num)}
 	case impl.ExprSelf:
-		return &worth{sign: "pid"}
+		return &worth{sign: "pid", num: int32(d.self)}
 	case impl.ExprNil, impl.ExprCons:
 		return &worth{sign: "list", parts: parts}
 	case impl.ExprPair:
@@ -77,18 +81,30 @@ func (d *thought) does(e impl.Expr, parts []*worth) *worth {
 		return parts[0].parts[0]
 	case impl.ExprSnd:
 		return parts[0].parts[1]
-	case impl.ExprOut:
-		return &worth{sign: "int"}
 	case impl.ExprApp:
-		d.calls++
-		if d.calls == impl.CallMax {
-			panic(stops{impl.WantMore})
-		}
-		return parts[0].call(parts[1])
+		d.counts()
+		return parts[0].call(d, parts[1])
 	case impl.ExprOp:
 		return opWorth(e.Num, int64(parts[0].num), int64(parts[1].num))
 	}
+	if d.asks != nil {
+		return d.asks(e.Kind, parts)
+	}
+	if e.Kind == impl.ExprOut {
+		return &worth{sign: "int"}
+	}
 	panic(stops{e.Kind})
+}
+
+// counts counts a call, and stops, or asks to go on, if there were as many as may be.
+func (d *thought) counts() {
+	d.calls++
+	if d.asks == nil && d.calls == impl.CallMax {
+		panic(stops{impl.WantMore})
+	}
+	if d.asks != nil && d.calls == impl.RunMax {
+		d.asks(impl.WantMore, nil)
+	}
 }
 
 // opWorth does an op in 64 bits, and wraps by counting.

@@ -26,6 +26,7 @@ func TestReadmeExample(t *testing.T) {
 	}
 	readmeCode(t)
 	readmeCells(t)
+	readmeRuns(t)
 }
 
 func readmeCode(t *testing.T) {
@@ -54,5 +55,26 @@ func readmeCells(t *testing.T) {
 	}
 	if both, word, ok := impl.HeapInto(cells, first, clean); !ok || len(both) != 2 || word.Num != 1 {
 		t.Error(both, word, ok)
+	}
+}
+
+func readmeRuns(t *testing.T) {
+	e := mustRead(t, "fst (1, 2) :: nil")
+	if value, want, most := impl.MachOf(e, false); value != "1 :: nil" || want != impl.WantDone || most != 2 {
+		t.Error(value, want, most)
+	}
+	if value, want, most := impl.MachOf(e, true); value != "1 :: nil" || want != impl.WantDone || most != 1 {
+		t.Error(value, want, most)
+	}
+	e = mustRead(t, "let p = spawn (fun x -> out (recv + 1)) in send p 41")
+	turns := impl.RunTurns(4)
+	for _, a := range []impl.Answer{impl.RunMean(e, turns), impl.RunMach(e, turns, false)} {
+		if told := answerTold(a); told != "1:42;1 1;0 0" {
+			t.Error(told)
+		}
+	}
+	events := []impl.Event{{Kind: impl.EventRun}, {Kind: impl.EventRun}, {Kind: impl.EventKill}}
+	if told := answerTold(impl.RunMean(e, events)); told != ";6 0;0 1" {
+		t.Error(told)
 	}
 }
