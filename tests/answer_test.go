@@ -37,7 +37,7 @@ func anyText(r *rand.Rand) string {
 	return string(s)
 }
 
-// Every function of chapters 1 to 6, 8 and 9 that takes an expression or a text answers, whatever it is given, and at what is not ok with its fixed answer.
+// Every function of chapters 1 to 6 and 8 to 11 that takes an expression or a text answers, whatever it is given, and at what is not ok with its fixed answer.
 func TestAnswersAtAnything(t *testing.T) {
 	r := rand.New(rand.NewSource(41))
 	list := append(wrongExprs(), oneOfEach()...)
@@ -78,6 +78,26 @@ func TestAnswersAtAnything(t *testing.T) {
 			t.Fatal("code of what is none")
 		}
 		runsAtAnything(t, r, e, typed)
+		foldsAtAnything(t, r, e, ok, typed)
+	}
+}
+
+// foldsAtAnything asks what comes of an expression, with numbers of steps of all sizes.
+func foldsAtAnything(t *testing.T, r *rand.Rand, e impl.Expr, ok bool, typed bool) {
+	numbers := []int{0, 1, 7, impl.StepMax, impl.StepMax + 1, -1, 1 << 40, 1<<63 - 1, -1 << 63}
+	if isNothing(impl.FoldOf(e)) == typed {
+		t.Fatal("what has no type is folded")
+	}
+	if !ok && (impl.FoldStill(e) || impl.StepValue(e)) || (impl.FoldSize(e) > 0) != ok {
+		t.Fatal("something is told of what is not ok")
+	}
+	if out, stepped := impl.StepOf(e); isNothing(out) == typed || stepped && !typed {
+		t.Fatal("a step of what has no type")
+	}
+	most := numbers[r.Intn(len(numbers))]
+	may := typed && most >= 0 && most <= impl.StepMax
+	if out, n := impl.StepsOf(e, most); isNothing(out) == may || n < 0 || n > 0 && (!may || n > most) {
+		t.Fatal("steps of what has no type, or too many")
 	}
 }
 
@@ -139,7 +159,7 @@ func TestBounds(t *testing.T) {
 	bounds := map[string][2]int{
 		"NameMax": {impl.NameMax, 4}, "NodeMax": {impl.NodeMax, 60}, "DeepMax": {impl.DeepMax, 14}, "TextMax": {impl.TextMax, 400}, "TypeMax": {impl.TypeMax, 64},
 		"CallMax": {impl.CallMax, 300}, "CodeMax": {impl.CodeMax, 200}, "HeapMax": {impl.HeapMax, 120}, "ProcMax": {impl.ProcMax, 6},
-		"FrameMax": {impl.FrameMax, 60}, "BoxMax": {impl.BoxMax, 6}, "RunMax": {impl.RunMax, 40}, "EventMax": {impl.EventMax, 120},
+		"FrameMax": {impl.FrameMax, 60}, "BoxMax": {impl.BoxMax, 6}, "RunMax": {impl.RunMax, 40}, "EventMax": {impl.EventMax, 120}, "StepMax": {impl.StepMax, 100},
 		"WantFull": {impl.WantFull, 104}, "EventRun": {impl.EventRun, 1}, "EventKill": {impl.EventKill, 2}, "EndNot": {impl.EndNot, 0}, "EndDone": {impl.EndDone, 1},
 		"EndDiv": {impl.EndDiv, 2}, "EndStuck": {impl.EndStuck, 3}, "EndFull": {impl.EndFull, 4}, "EndLink": {impl.EndLink, 5}, "EndKill": {impl.EndKill, 6},
 	}

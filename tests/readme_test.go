@@ -27,6 +27,21 @@ func TestReadmeExample(t *testing.T) {
 	readmeCode(t)
 	readmeCells(t)
 	readmeRuns(t)
+	readmeSteps(t)
+}
+
+func readmeSteps(t *testing.T) {
+	out := impl.FoldOf(mustRead(t, "fun y -> let x = y in if 1 < 2 then x + 2 * 3 else 0"))
+	if impl.ExprPut(out) != "fun y -> y + 6" || impl.FoldSize(out) != 4 || !impl.FoldStill(out) {
+		t.Error(impl.ExprPut(out))
+	}
+	e := mustRead(t, "(fun x -> x + x) (1 + 2)")
+	if out, ok := impl.StepOf(e); !ok || impl.ExprPut(out) != "(fun x -> x + x) 3" {
+		t.Error(impl.ExprPut(out), ok)
+	}
+	if out, steps := impl.StepsOf(e, impl.StepMax); impl.ExprPut(out) != "6" || steps != 3 || !impl.StepValue(out) {
+		t.Error(impl.ExprPut(out), steps)
+	}
 }
 
 func readmeCode(t *testing.T) {
