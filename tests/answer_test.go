@@ -37,7 +37,7 @@ func anyText(r *rand.Rand) string {
 	return string(s)
 }
 
-// Every function of chapters 1 to 6 and 8 to 11 that takes an expression or a text answers, whatever it is given, and at what is not ok with its fixed answer.
+// Every function of chapters 1 to 6, 8 to 11 and 13 that takes an expression or a text answers, whatever it is given, and at what is not ok with its fixed answer.
 func TestAnswersAtAnything(t *testing.T) {
 	r := rand.New(rand.NewSource(41))
 	list := append(wrongExprs(), oneOfEach()...)
@@ -79,6 +79,24 @@ func TestAnswersAtAnything(t *testing.T) {
 		}
 		runsAtAnything(t, r, e, typed)
 		foldsAtAnything(t, r, e, ok, typed)
+		waysAtAnything(t, r, e, typed)
+	}
+}
+
+// waysAtAnything asks for all ways of an expression, with picks and events that are numbers of all sizes.
+func waysAtAnything(t *testing.T, r *rand.Rand, e impl.Expr, typed bool) {
+	numbers := []int{0, 1, 4, impl.WaysMax, impl.WaysMax + 1, -1, 1 << 40, 1<<63 - 1, -1 << 63}
+	picks := numbers[r.Intn(len(numbers))]
+	if all := impl.WaysOf(e, picks); (len(all) > 0) != (typed && picks >= 0 && picks <= impl.WaysMax) {
+		t.Fatal("ways of what has no type, or too many picks")
+	}
+	var events []impl.Event
+	for range r.Intn(20) {
+		events = append(events, impl.Event{Kind: numbers[r.Intn(len(numbers))], Proc: numbers[r.Intn(len(numbers))]})
+	}
+	trace := impl.WaysTrace(e, events)
+	if typed && len(trace) != len(events) || !typed && (len(trace) > 0 || impl.WaysStill(e, events)) {
+		t.Fatal("a trace of what has no type")
 	}
 }
 
@@ -160,6 +178,7 @@ func TestBounds(t *testing.T) {
 		"NameMax": {impl.NameMax, 4}, "NodeMax": {impl.NodeMax, 60}, "DeepMax": {impl.DeepMax, 14}, "TextMax": {impl.TextMax, 400}, "TypeMax": {impl.TypeMax, 64},
 		"CallMax": {impl.CallMax, 300}, "CodeMax": {impl.CodeMax, 200}, "HeapMax": {impl.HeapMax, 120}, "ProcMax": {impl.ProcMax, 6},
 		"FrameMax": {impl.FrameMax, 60}, "BoxMax": {impl.BoxMax, 6}, "RunMax": {impl.RunMax, 40}, "EventMax": {impl.EventMax, 120}, "StepMax": {impl.StepMax, 100},
+		"WireMax": {impl.WireMax, 4000}, "WaysMax": {impl.WaysMax, 6},
 		"WantFull": {impl.WantFull, 104}, "EventRun": {impl.EventRun, 1}, "EventKill": {impl.EventKill, 2}, "EndNot": {impl.EndNot, 0}, "EndDone": {impl.EndDone, 1},
 		"EndDiv": {impl.EndDiv, 2}, "EndStuck": {impl.EndStuck, 3}, "EndFull": {impl.EndFull, 4}, "EndLink": {impl.EndLink, 5}, "EndKill": {impl.EndKill, 6},
 	}

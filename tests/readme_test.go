@@ -28,6 +28,28 @@ func TestReadmeExample(t *testing.T) {
 	readmeCells(t)
 	readmeRuns(t)
 	readmeSteps(t)
+	readmeWays(t)
+}
+
+func readmeWays(t *testing.T) {
+	cells := []impl.Cell{{Kind: impl.CellPair}, {Kind: impl.CellCons, A: impl.Word{Tag: impl.WordInt, Num: 1}}}
+	first := impl.Word{Tag: impl.WordRef, Num: 1}
+	text := impl.WirePut(cells, first)
+	if read, word, ok := impl.WireGet(text); text != "at0\ncons 1 nil\n" || !ok || word.Num != 0 || len(read) != 1 || read[0] != cells[1] {
+		t.Error(text, read, word, ok)
+	}
+	e := mustRead(t, "let p = spawn (fun x -> out 5) in out 4")
+	all := impl.WaysOf(e, impl.WaysMax)
+	if len(all) != 2 || all[0] != "outs 0:4 1:5\nends 1 1\nleft 0 0\n" || all[1] != "outs 1:5 0:4\nends 1 1\nleft 0 0\n" {
+		t.Error(all)
+	}
+	events := []impl.Event{{Kind: impl.EventRun}, {Kind: impl.EventRun, Proc: 1}, {Kind: impl.EventRun, Proc: 2}}
+	if text := impl.AnswerPut(impl.RunMean(e, events)); text != "outs 1:5\nends 0 0\nleft 0 0\n" {
+		t.Error(text)
+	}
+	if trace := impl.WaysTrace(e, events); !slices.Equal(trace, []int{impl.ExprSpawn, impl.ExprOut, -1}) || impl.WaysStill(e, events) {
+		t.Error(trace)
+	}
 }
 
 func readmeSteps(t *testing.T) {

@@ -111,22 +111,28 @@ func laboured(l *labour, does func()) *player {
 	})
 }
 
-// stage is all players; pairs are who is linked, be they there still or not.
+// stage is all players; pairs are who is linked, be they there still or not; wanted is what was done, event by event.
 type stage struct {
 	players []*player
 	pairs   [][2]int
 	outs    []impl.Told
+	wanted  []int
 	begin   func(self int, f any) *player
 }
 
 // meanStaged is RunMean of an expression that has a type, as the tests see it.
 func meanStaged(e impl.Expr, list []impl.Event) impl.Answer {
+	return meanStage(e).play(list)
+}
+
+// meanStage is a stage for an expression that has a type, on which nothing was played.
+func meanStage(e impl.Expr) *stage {
 	first := meant(0, func(d *thought) { d.of(e, map[string]*worth{}) })
 	s := &stage{players: []*player{first}}
 	s.begin = func(self int, f any) *player {
 		return meant(self, func(d *thought) { f.(*worth).call(d, &worth{sign: "int"}) })
 	}
-	return s.play(list)
+	return s
 }
 
 // machStaged is RunMach of an expression that has a type, as the tests see it.
@@ -148,6 +154,9 @@ func machStaged(e impl.Expr, list []impl.Event, always bool) impl.Answer {
 
 func (s *stage) play(list []impl.Event) impl.Answer {
 	for i, event := range list {
+		if i < 120 {
+			s.wanted = append(s.wanted, -1)
+		}
 		if i < 120 && event.Proc >= 0 && event.Proc < len(s.players) && s.players[event.Proc].end == 0 {
 			s.event(event)
 			s.spread()
@@ -190,14 +199,19 @@ func (s *stage) event(event impl.Event) {
 		s.takes(p)
 	case event.Kind == impl.EventRun:
 		r, _ := p.next()
+		s.notes(r.kind)
 		s.request(event.Proc, r)
 	}
 }
+
+// notes notes what is done in this event.
+func (s *stage) notes(kind int) { s.wanted[len(s.wanted)-1] = kind }
 
 func (s *stage) takes(p *player) {
 	if len(p.box) == 0 {
 		return
 	}
+	s.notes(impl.ExprRecv)
 	if r := p.waits; r.room != nil && !r.room(p.box[0]) {
 		p.end = impl.EndFull
 	}
