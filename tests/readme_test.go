@@ -29,6 +29,14 @@ func TestReadmeExample(t *testing.T) {
 	readmeRuns(t)
 	readmeSteps(t)
 	readmeWays(t)
+	readmeSession(t)
+}
+
+func readmeSession(t *testing.T) {
+	text := impl.Session([]string{"type fun x -> x", "run out 5", "pick 0", "mean", "still"})
+	if text != "a -> a\ntold b\nok\nok\nouts 0:5\nends 0\nleft 0\nno\n" {
+		t.Error(text)
+	}
 }
 
 func readmeWays(t *testing.T) {
