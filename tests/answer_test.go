@@ -37,7 +37,7 @@ func anyText(r *rand.Rand) string {
 	return string(s)
 }
 
-// Every function of chapters 1 to 6, 8 to 11 and 13 that takes an expression or a text answers, whatever it is given, and at what is not ok with its fixed answer.
+// Every function of chapters 1 to 6, 8 to 11, 13, 15 and 16 that takes an expression or a text answers, whatever it is given, and at what is not ok with its fixed answer.
 func TestAnswersAtAnything(t *testing.T) {
 	r := rand.New(rand.NewSource(41))
 	list := append(wrongExprs(), oneOfEach()...)
@@ -80,6 +80,37 @@ func TestAnswersAtAnything(t *testing.T) {
 		runsAtAnything(t, r, e, typed)
 		foldsAtAnything(t, r, e, ok, typed)
 		waysAtAnything(t, r, e, typed)
+		plainAtAnything(t, e, ok, typed)
+		modsAtAnything(t, r, list)
+	}
+}
+
+// plainAtAnything asks whether an expression is plain, and makes it so.
+func plainAtAnything(t *testing.T, e impl.Expr, ok bool, typed bool) {
+	if impl.PlainIs(e) && !ok {
+		t.Fatal("what is not ok is plain")
+	}
+	if out, made := impl.PlainOf(e); made && !typed || made == isNothing(out) {
+		t.Fatal("what has no type is made plain")
+	}
+}
+
+// modsAtAnything asks for definitions of some of these expressions, under names that are seldom some, and reads texts that are seldom some.
+func modsAtAnything(t *testing.T, r *rand.Rand, list []impl.Expr) {
+	m := impl.Mod{Main: list[r.Intn(len(list))]}
+	for range r.Intn(9) {
+		m.Defs = append(m.Defs, impl.Def{Name: anyText(r), Expr: list[r.Intn(len(list))]})
+		if r.Intn(4) > 0 {
+			m.Defs[len(m.Defs)-1].Name = "x"
+		}
+	}
+	ok := isModSeen(m)
+	e, made := impl.ModExpr(m)
+	if (impl.ModPut(m) != "") != ok || made && !ok || made == isNothing(e) || !ok && len(impl.ModNeeds(m)) > 0 || !made && len(impl.ModTypes(m)) > 0 {
+		t.Fatal("something is told of definitions that are not ok")
+	}
+	if got, read := impl.ModGet(anyText(r) + "\n" + anyText(r) + "\n"); !read && !isEmptyMod(got) {
+		t.Fatal("something stands beside false")
 	}
 }
 
@@ -178,7 +209,7 @@ func TestBounds(t *testing.T) {
 		"NameMax": {impl.NameMax, 4}, "NodeMax": {impl.NodeMax, 60}, "DeepMax": {impl.DeepMax, 14}, "TextMax": {impl.TextMax, 400}, "TypeMax": {impl.TypeMax, 64},
 		"CallMax": {impl.CallMax, 300}, "CodeMax": {impl.CodeMax, 200}, "HeapMax": {impl.HeapMax, 120}, "ProcMax": {impl.ProcMax, 6},
 		"FrameMax": {impl.FrameMax, 60}, "BoxMax": {impl.BoxMax, 6}, "RunMax": {impl.RunMax, 40}, "EventMax": {impl.EventMax, 120}, "StepMax": {impl.StepMax, 100},
-		"WireMax": {impl.WireMax, 4000}, "WaysMax": {impl.WaysMax, 6}, "SessionMax": {impl.SessionMax, 40},
+		"WireMax": {impl.WireMax, 4000}, "WaysMax": {impl.WaysMax, 6}, "SessionMax": {impl.SessionMax, 40}, "DefMax": {impl.DefMax, 6},
 		"WantFull": {impl.WantFull, 104}, "EventRun": {impl.EventRun, 1}, "EventKill": {impl.EventKill, 2}, "EndNot": {impl.EndNot, 0}, "EndDone": {impl.EndDone, 1},
 		"EndDiv": {impl.EndDiv, 2}, "EndStuck": {impl.EndStuck, 3}, "EndFull": {impl.EndFull, 4}, "EndLink": {impl.EndLink, 5}, "EndKill": {impl.EndKill, 6},
 	}

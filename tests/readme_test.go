@@ -30,6 +30,25 @@ func TestReadmeExample(t *testing.T) {
 	readmeSteps(t)
 	readmeWays(t)
 	readmeSession(t)
+	readmeMods(t)
+}
+
+func readmeMods(t *testing.T) {
+	e := mustRead(t, "out (1 + 2) :: nil")
+	if out, ok := impl.PlainOf(e); !ok || impl.PlainIs(e) || impl.ExprPut(out) != "let t1 = let t0 = 1 + 2 in out t0 in t1 :: nil" {
+		t.Error(impl.ExprPut(out), ok)
+	}
+	text := "id = fun x -> x\na = id 1\nid true\n"
+	mod, ok := impl.ModGet(text)
+	if !ok || len(mod.Defs) != 2 || impl.ModPut(mod) != text {
+		t.Error(mod, ok)
+	}
+	if e, ok := impl.ModExpr(mod); !ok || impl.ExprPut(e) != "let id = fun x -> x in let a = id 1 in id true" {
+		t.Error(impl.ExprPut(e), ok)
+	}
+	if types, needs := impl.ModTypes(mod), impl.ModNeeds(mod); !slices.Equal(types, []string{"a -> a", "int", "bool"}) || !slices.Equal(needs, []int{0}) {
+		t.Error(types, needs)
+	}
 }
 
 func readmeSession(t *testing.T) {
