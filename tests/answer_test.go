@@ -203,14 +203,14 @@ func TestTypesAndValuesWriteNothing(t *testing.T) {
 	}
 }
 
-// The bounds of the chapters that are built are those of the document's table, and codes are the numbers that chapters 8 and 9 name.
+// The bounds of the chapters that are built are those of the document's table, and codes are the numbers that chapters 5, 8 and 9 name.
 func TestBounds(t *testing.T) {
 	bounds := map[string][2]int{
 		"NameMax": {impl.NameMax, 4}, "NodeMax": {impl.NodeMax, 60}, "DeepMax": {impl.DeepMax, 14}, "TextMax": {impl.TextMax, 400}, "TypeMax": {impl.TypeMax, 64},
 		"CallMax": {impl.CallMax, 300}, "CodeMax": {impl.CodeMax, 200}, "HeapMax": {impl.HeapMax, 120}, "ProcMax": {impl.ProcMax, 6},
 		"FrameMax": {impl.FrameMax, 60}, "BoxMax": {impl.BoxMax, 6}, "RunMax": {impl.RunMax, 40}, "EventMax": {impl.EventMax, 120}, "StepMax": {impl.StepMax, 100},
-		"WireMax": {impl.WireMax, 4000}, "WaysMax": {impl.WaysMax, 6}, "SessionMax": {impl.SessionMax, 40}, "DefMax": {impl.DefMax, 6},
-		"WantFull": {impl.WantFull, 104}, "EventRun": {impl.EventRun, 1}, "EventKill": {impl.EventKill, 2}, "EndNot": {impl.EndNot, 0}, "EndDone": {impl.EndDone, 1},
+		"WireMax": {impl.WireMax, 4000}, "WaysMax": {impl.WaysMax, 6}, "SessionMax": {impl.SessionMax, 40}, "DefMax": {impl.DefMax, 6}, "SlimMax": {impl.SlimMax, 2000},
+		"WantMore": {impl.WantMore, 0}, "WantDone": {impl.WantDone, 101}, "WantDiv": {impl.WantDiv, 102}, "WantStuck": {impl.WantStuck, 103}, "WantFull": {impl.WantFull, 104}, "EventRun": {impl.EventRun, 1}, "EventKill": {impl.EventKill, 2}, "EndNot": {impl.EndNot, 0}, "EndDone": {impl.EndDone, 1},
 		"EndDiv": {impl.EndDiv, 2}, "EndStuck": {impl.EndStuck, 3}, "EndFull": {impl.EndFull, 4}, "EndLink": {impl.EndLink, 5}, "EndKill": {impl.EndKill, 6},
 	}
 	for name, pair := range bounds {

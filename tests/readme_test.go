@@ -31,6 +31,35 @@ func TestReadmeExample(t *testing.T) {
 	readmeWays(t)
 	readmeSession(t)
 	readmeMods(t)
+	readmeSlim(t)
+	readmeSame(t)
+}
+
+func readmeSlim(t *testing.T) {
+	ops, _ := impl.CodeGet("go 2\nnil\nnum 1\ngo 4\ngive\n")
+	if live := impl.SlimLive(ops); !slices.Equal(live, []int{0, 2, 3, 4}) {
+		t.Error(live)
+	}
+	if value, want, done := impl.SlimRun(ops, impl.SlimMax); value != "1" || want != impl.WantDone || done != 4 {
+		t.Error(value, want, done)
+	}
+	ops = impl.SlimOf(ops)
+	if value, want, done := impl.SlimRun(ops, 1); impl.CodePut(ops) != "num 1\ngive\n" || value != "" || want != impl.WantMore || done != 1 {
+		t.Error(ops, value, want, done)
+	}
+}
+
+func readmeSame(t *testing.T) {
+	one, first := impl.Word{Tag: impl.WordInt, Num: 1}, impl.Word{Tag: impl.WordRef, Num: 1}
+	cells := []impl.Cell{{Kind: impl.CellPair}, {Kind: impl.CellCons, A: one}}
+	ring := []impl.Cell{{Kind: impl.CellCons, A: one, B: first}, {Kind: impl.CellCons, A: one, B: impl.Word{Tag: impl.WordRef}}}
+	own := []impl.Cell{{Kind: impl.CellPair}, {Kind: impl.CellCons, A: one, B: first}}
+	if !impl.SameHeap(ring, first, own, first) || impl.SameDeep(cells, first) != 1 || impl.SameDeep(ring, first) != impl.DeepMax {
+		t.Error("cells do not say the same")
+	}
+	if rings := impl.SameRings(own); !slices.Equal(rings, []int{1}) {
+		t.Error(rings)
+	}
 }
 
 func readmeMods(t *testing.T) {
