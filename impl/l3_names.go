@@ -6,6 +6,9 @@ import (
 	"strconv"
 )
 
+// boundMax is how many names can be bound around each other: no kind binds more than two.
+const boundMax = 2 * DeepMax
+
 // NameFree is the free names of an expression.
 func NameFree(e Expr) []string {
 	if !ExprOk(e) {
@@ -190,10 +193,10 @@ func firstNot(taken map[string]int, other string) string {
 	}
 }
 
-// tidyNames are the first of w0, w1 and so on that are not free: as many as can be bound around each other.
+// tidyNames are the first of w0, w1 and so on that are not free, as many as can be bound.
 func tidyNames(free map[string]int) []string {
 	names := []string{}
-	for i := 0; len(names) < 2*DeepMax; i++ {
+	for i := 0; len(names) < boundMax; i++ {
 		name := "w" + strconv.Itoa(i)
 		if free[name] == 0 {
 			names = append(names, name)

@@ -37,7 +37,7 @@ func anyText(r *rand.Rand) string {
 	return string(s)
 }
 
-// Every function of chapters 1 to 6, 8 to 11, 13, 15 and 16 that takes an expression or a text answers, whatever it is given, and at what is not ok with its fixed answer.
+// Every function of chapters 1 to 6, 8 to 11, 13, 15, 16, 19 and 20 that takes an expression or a text answers, whatever it is given, and at what is not ok with its fixed answer.
 func TestAnswersAtAnything(t *testing.T) {
 	r := rand.New(rand.NewSource(41))
 	list := append(wrongExprs(), oneOfEach()...)
@@ -82,6 +82,37 @@ func TestAnswersAtAnything(t *testing.T) {
 		waysAtAnything(t, r, e, typed)
 		plainAtAnything(t, e, ok, typed)
 		modsAtAnything(t, r, list)
+		flatAtAnything(t, e, typed)
+		findsAtAnything(t, r, e, typed)
+	}
+}
+
+// flatAtAnything asks for flat functions of an expression.
+func flatAtAnything(t *testing.T, e impl.Expr, typed bool) {
+	if s, want := impl.FlatRun(e); (want == impl.WantStuck) == typed || s != "" && want != impl.WantDone {
+		t.Fatal("flat functions of what has no type run")
+	}
+	if (len(impl.FlatOf(e)) > 0) != typed || (len(impl.FlatSize(e)) == 3) != typed {
+		t.Fatal("flat functions of what has no type")
+	}
+}
+
+// findsAtAnything looks for ways of an expression, with picks, numbers and events that are numbers of all sizes.
+func findsAtAnything(t *testing.T, r *rand.Rand, e impl.Expr, typed bool) {
+	numbers := []int{0, 1, 4, impl.WaysMax, impl.WaysMax + 1, -1, 1 << 40, 1<<63 - 1, -1 << 63}
+	picks := numbers[r.Intn(len(numbers))]
+	may := typed && picks >= 0 && picks <= impl.WaysMax
+	dead, isDead := impl.FindDead(e, picks)
+	told, isTold := impl.FindTold(e, numbers[r.Intn(len(numbers))], picks)
+	if (isDead || isTold) && !may || (len(dead) > 0) != isDead || (len(told) > 0) != isTold {
+		t.Fatal("ways of what has no type, or too many picks")
+	}
+	var events []impl.Event
+	for range r.Intn(20) {
+		events = append(events, impl.Event{Kind: numbers[r.Intn(len(numbers))], Proc: numbers[r.Intn(len(numbers))]})
+	}
+	if (len(impl.FindTypes(e)) > 0) != typed || impl.FindIs(e, events) && !typed {
+		t.Fatal("types of what has none")
 	}
 }
 
@@ -203,7 +234,7 @@ func TestTypesAndValuesWriteNothing(t *testing.T) {
 	}
 }
 
-// The bounds of the chapters that are built are those of the document's table, and codes are the numbers that chapters 5, 8 and 9 name.
+// Bounds are those of the document's table, and codes are the numbers that chapters 5, 8, 9 and 19 name.
 func TestBounds(t *testing.T) {
 	bounds := map[string][2]int{
 		"NameMax": {impl.NameMax, 4}, "NodeMax": {impl.NodeMax, 60}, "DeepMax": {impl.DeepMax, 14}, "TextMax": {impl.TextMax, 400}, "TypeMax": {impl.TypeMax, 64},
@@ -212,6 +243,7 @@ func TestBounds(t *testing.T) {
 		"WireMax": {impl.WireMax, 4000}, "WaysMax": {impl.WaysMax, 6}, "SessionMax": {impl.SessionMax, 40}, "DefMax": {impl.DefMax, 6}, "SlimMax": {impl.SlimMax, 2000},
 		"WantMore": {impl.WantMore, 0}, "WantDone": {impl.WantDone, 101}, "WantDiv": {impl.WantDiv, 102}, "WantStuck": {impl.WantStuck, 103}, "WantFull": {impl.WantFull, 104}, "EventRun": {impl.EventRun, 1}, "EventKill": {impl.EventKill, 2}, "EndNot": {impl.EndNot, 0}, "EndDone": {impl.EndDone, 1},
 		"EndDiv": {impl.EndDiv, 2}, "EndStuck": {impl.EndStuck, 3}, "EndFull": {impl.EndFull, 4}, "EndLink": {impl.EndLink, 5}, "EndKill": {impl.EndKill, 6},
+		"FlatLoc": {impl.FlatLoc, 25}, "FlatFree": {impl.FlatFree, 26}, "FlatSelf": {impl.FlatSelf, 27}, "FlatMake": {impl.FlatMake, 28},
 	}
 	for name, pair := range bounds {
 		if pair[0] != pair[1] {

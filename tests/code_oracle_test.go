@@ -15,10 +15,13 @@ var opWords = strings.Fields("num bool var fun rec call bind drop if go pair fst
 var wordsWithNum = strings.Fields("num bool var fun rec drop if go case op")
 
 // sheet is code in lines, in which places are still labels: `@N` alone stands where a label is, and behind a word it leads there.
+// What is to be written of a name, and of a function, is that of chapter 6, if it is not told otherwise.
 type sheet struct {
 	lines  []string
 	labels int
 	bodies []func()
+	named  func(name string, names []string)
+	made   func(e impl.Expr, names []string)
 }
 
 func (s *sheet) line(words ...string) { s.lines = append(s.lines, strings.Join(words, " ")) }
@@ -45,15 +48,11 @@ func (s *sheet) of(e impl.Expr, names []string) {
 	case impl.ExprBool:
 		s.line("bool", num)
 	case impl.ExprVar:
-		later := 0
-		for names[len(names)-1-later] != e.Name {
-			later++
-		}
-		s.line("var", strconv.Itoa(later))
+		s.name(e.Name, names)
 	case impl.ExprFun:
-		s.function("fun", e, in(0))
+		s.function("fun", e, names)
 	case impl.ExprRec:
-		s.function("rec", e, in(0))
+		s.function("rec", e, names)
 		s.line("bind")
 		kid(1)
 		s.line("drop 1")
@@ -94,13 +93,30 @@ func (s *sheet) ways(e impl.Expr, kid func(place int)) {
 	s.line(end)
 }
 
+// name writes the line of a name.
+func (s *sheet) name(name string, names []string) {
+	if s.named != nil {
+		s.named(name, names)
+		return
+	}
+	later := 0
+	for names[len(names)-1-later] != name {
+		later++
+	}
+	s.line("var", strconv.Itoa(later))
+}
+
 // function writes the line that makes a function; its body is written later.
 func (s *sheet) function(word string, e impl.Expr, names []string) {
+	if s.made != nil {
+		s.made(e, names)
+		return
+	}
 	label := s.label()
 	s.line(word, label)
 	s.bodies = append(s.bodies, func() {
 		s.line(label)
-		s.of(e.Kids[0], names)
+		s.of(e.Kids[0], slices.Concat(names, bindsIn(e, 0)))
 		s.line("give")
 	})
 }
@@ -270,39 +286,61 @@ func kindByOp(op impl.Op) int {
 	return map[int]int{impl.CodeNum: impl.ExprNum, impl.CodeBool: impl.ExprBool, impl.CodeOp: impl.ExprOp}[op.Kind]
 }
 
+// going is where it is gone on, what is known there, the last name last, and values that were not taken yet.
+type going struct {
+	at     int
+	known  []*worth
+	values []*worth
+}
+
+// take takes the last values.
+func (g *going) take(count int) []*worth {
+	left := len(g.values) - count
+	parts := slices.Clone(g.values[left:])
+	g.values = g.values[:left]
+	return parts
+}
+
+// one does an op that took these values, be it of code or of flat functions; what it does not do itself a thought does.
+func (g *going) one(op impl.Op, parts []*worth, d *thought) {
+	switch op.Kind {
+	case impl.CodeBind:
+		g.known = slices.Concat(g.known, parts)
+	case impl.CodeDrop:
+		g.known = g.known[:len(g.known)-op.Num]
+	case impl.CodeGo:
+		g.at = op.Num
+	case impl.CodeIf:
+		if parts[0].num == 0 {
+			g.at = op.Num
+		}
+	case impl.CodeCase:
+		if len(parts[0].parts) == 0 {
+			g.at = op.Num
+		}
+		g.known = slices.Concat(g.known, parts[0].parts)
+	default:
+		g.values = append(g.values, d.does(impl.Expr{Kind: kindByOp(op), Num: op.Num}, parts))
+	}
+}
+
 // from is what is given back, if it is gone on at a place, so much being known.
 func (d *doing) from(at int, known []*worth) *worth {
-	var values []*worth
+	g := going{at: at, known: known}
 	for {
-		op := d.list[at]
+		op := d.list[g.at]
 		takes, _ := takesAndPuts(op.Kind)
-		parts := slices.Clone(values[len(values)-takes:])
-		values = values[:len(values)-takes]
-		at++
+		parts := g.take(takes)
+		g.at++
 		switch op.Kind {
 		case impl.CodeVar:
-			values = append(values, known[len(known)-1-op.Num])
+			g.values = append(g.values, g.known[len(g.known)-1-op.Num])
 		case impl.CodeFun, impl.CodeRec:
-			values = append(values, d.function(op, known))
-		case impl.CodeBind:
-			known = slices.Concat(known, parts)
-		case impl.CodeDrop:
-			known = known[:len(known)-op.Num]
-		case impl.CodeGo:
-			at = op.Num
-		case impl.CodeIf:
-			if parts[0].num == 0 {
-				at = op.Num
-			}
-		case impl.CodeCase:
-			if len(parts[0].parts) == 0 {
-				at = op.Num
-			}
-			known = slices.Concat(known, parts[0].parts)
+			g.values = append(g.values, d.function(op, g.known))
 		case impl.CodeGive:
-			return values[0]
+			return g.values[0]
 		default:
-			values = append(values, d.does.does(impl.Expr{Kind: kindByOp(op), Num: op.Num}, parts))
+			g.one(op, parts, &d.does)
 		}
 	}
 }

@@ -33,6 +33,36 @@ func TestReadmeExample(t *testing.T) {
 	readmeMods(t)
 	readmeSlim(t)
 	readmeSame(t)
+	readmeFlat(t)
+	readmeFind(t)
+}
+
+func readmeFlat(t *testing.T) {
+	e := mustRead(t, "let a = 2 in rec f n = if n < 1 then a else f (n - 1) in f 3")
+	funs := impl.FlatOf(e)
+	if len(funs) != 2 || funs[1].Free != 1 || !slices.Contains(funs[1].Ops, impl.Op{Kind: impl.FlatSelf}) {
+		t.Error(funs)
+	}
+	if value, want := impl.FlatRun(e); value != "2" || want != impl.WantDone {
+		t.Error(value, want)
+	}
+	if sizes := impl.FlatSize(e); !slices.Equal(sizes, []int{2, 23, 1}) {
+		t.Error(sizes)
+	}
+}
+
+func readmeFind(t *testing.T) {
+	e := mustRead(t, "let p = spawn (fun x -> out recv) in 7")
+	events, ok := impl.FindDead(e, impl.WaysMax)
+	if !ok || !slices.Equal(events, eventsOf("0 0 1")) || impl.FindIs(e, events[:2]) {
+		t.Error(events, ok)
+	}
+	if events, ok := impl.FindTold(e, 7, impl.WaysMax); ok || len(events) > 0 {
+		t.Error(events, ok)
+	}
+	if types := impl.FindTypes(e); !slices.Equal(types, []string{"int", "pid", "a -> int"}) {
+		t.Error(types)
+	}
 }
 
 func readmeSlim(t *testing.T) {
